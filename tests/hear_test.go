@@ -142,10 +142,24 @@ func broughtBy(s impl.Server, w impl.Word) (impl.Server, []impl.Word) {
 		return s, answers
 	}
 	x := emptied(s, w.Slot, impl.Slot{Epoch: w.Epoch, Stand: impl.StandOwns})
-	x.Vers, x.Waits, x.Owes = slices.Concat(x.Vers, w.Vers), slices.Concat(x.Waits, w.Waits), slices.Concat(x.Owes, w.Owes)
-	slices.SortFunc(x.Vers, verOrder)
-	slices.SortFunc(x.Waits, verOrder)
-	slices.SortFunc(x.Owes, depOrder)
+	if max(len(x.Vers)+len(w.Vers), len(x.Waits)+len(w.Waits), len(x.Owes)+len(w.Owes)) > impl.ChainMax {
+		return s, nil
+	}
+	for _, v := range w.Vers {
+		if !hasName(x.Vers, nameOf(v)) {
+			x.Vers = inPlace(x.Vers, v)
+		}
+	}
+	for _, v := range w.Waits {
+		if !hasName(x.Waits, nameOf(v)) {
+			x.Waits = inPlace(x.Waits, v)
+		}
+	}
+	for _, d := range w.Owes {
+		if !slices.Contains(x.Owes, d) {
+			x.Owes = depInPlace(x.Owes, d)
+		}
+	}
 	if !impl.ServerOk(x) {
 		return s, nil
 	}

@@ -182,7 +182,7 @@ func TestParcelsAreCountedAheadOfSettling(t *testing.T) {
 }
 
 // A parcel does nothing, if what came of it were not ok: what waits must be of the other side and not be seen, a debt be of what is seen,
-// all be of slots that are here, and nothing be there twice.
+// and all be of slots that are here.
 func TestParcelsThatWouldSpoil(t *testing.T) {
 	s := hearing(2, came(0, 3, 2), came(2, 4, 3))
 	s.Waits, s.Owes = []impl.Ver{came(3, 9, 0, dep(5, 8, 1))}, []impl.Dep{dep(0, 3, 2)}
@@ -198,8 +198,6 @@ func TestParcelsThatWouldSpoil(t *testing.T) {
 		func(w *impl.Word) { w.Vers = append(w.Vers, w.Waits[0]) },
 		func(w *impl.Word) { w.Vers = nil },
 		func(w *impl.Word) { w.Owes = append(w.Owes, dep(3, 9, 1)) },
-		func(w *impl.Word) { w.Owes = []impl.Dep{dep(0, 3, 2), dep(2, 5, 2)} },
-		func(w *impl.Word) { w.Vers = []impl.Ver{came(0, 3, 2), came(2, 5, 2)} },
 		func(w *impl.Word) { w.Vers = append(w.Vers, came(4, 5, 2)) },
 		func(w *impl.Word) { w.Waits = append(w.Waits, came(5, 9, 1)) },
 		func(w *impl.Word) { w.Waits = []impl.Ver{came(0, 3, 0), came(0, 3, 2)} },
@@ -221,6 +219,112 @@ func TestParcelsWithThingsOfOtherSlots(t *testing.T) {
 	w.Vers, w.Waits, w.Owes = []impl.Ver{came(0, 4, 3)}, []impl.Ver{came(5, 9, 1, dep(5, 8, 1))}, []impl.Dep{dep(0, 3, 2), dep(0, 4, 3)}
 	if x, words := checkHeard(t, s, w); len(words) != 1 || len(x.Vers) != 2 || len(x.Waits) != 1 || len(x.Owes) != 2 {
 		t.Error(x, words)
+	}
+}
+
+// withThere is a server with a version that can be seen and is owed, and one that waits, and a parcel of another slot with just these.
+func withThere() (impl.Server, impl.Word) {
+	s := hearing(2, came(0, 3, 2, dep(4, 1, 2)), came(2, 4, 3))
+	s.Waits, s.Owes = []impl.Ver{came(1, 9, 0, dep(5, 8, 1))}, []impl.Dep{dep(0, 3, 2)}
+	w := bulkTo(s, 1, 2)
+	w.Vers, w.Waits, w.Owes = []impl.Ver{came(0, 3, 2, dep(4, 1, 2))}, []impl.Ver{came(1, 9, 0, dep(5, 8, 1))}, []impl.Dep{dep(0, 3, 2)}
+	return s, w
+}
+
+// Promise 41: what a parcel brings along and is there already, of Vers, of Waits, and of Owes, by itself and together, is there once,
+// and the slot comes.
+func TestParcelsWithWhatIsThere(t *testing.T) {
+	for which := range 8 {
+		s, w := withThere()
+		want := emptied(s, 1, impl.Slot{Epoch: 2, Stand: impl.StandOwns})
+		w.Vers, w.Waits, w.Owes = w.Vers[:which&1], w.Waits[:which>>1&1], w.Owes[:which>>2]
+		x, words := checkHeard(t, s, w)
+		if !sameServer(x, want) || len(words) != 1 || !sameWord(words[0], bulkOkTo(impl.Server{Site: 3}, 1, 2)) {
+			t.Error(which, x, words)
+		}
+	}
+}
+
+// What is there stays as it was, by its key and stamp, though what comes says something else, and stands in its place among what is new.
+func TestParcelsDoNotChangeWhatIsThere(t *testing.T) {
+	s, w := withThere()
+	w.Vers[0].Val, w.Vers[0].Deps = 4711, []impl.Dep{dep(5, 2, 3)}
+	w.Waits[0].Val, w.Waits[0].Deps = 4711, []impl.Dep{dep(5, 7, 1)}
+	w.Vers = []impl.Ver{came(0, 2, 2), w.Vers[0], came(0, 4, 2), came(3, 6, 3)}
+	w.Waits = []impl.Ver{came(1, 8, 0, dep(5, 7, 1)), w.Waits[0], came(3, 9, 0, dep(5, 7, 1))}
+	w.Owes = []impl.Dep{dep(0, 2, 2), dep(0, 3, 2), dep(3, 6, 3)}
+	x, words := checkHeard(t, s, w)
+	if len(words) != 1 || len(x.Vers) != 4 || len(x.Waits) != 3 || !slices.Equal(x.Owes, w.Owes) {
+		t.Fatal(x, words)
+	}
+	if !sameVer(x.Vers[1], s.Vers[0]) || !sameVer(x.Waits[1], s.Waits[0]) {
+		t.Error(x)
+	}
+}
+
+// What comes and is there already is new memory, as all else, and shares none with what the parcel brings.
+func TestParcelsWithWhatIsThereAreNewMemory(t *testing.T) {
+	hear := func(s impl.Server, w impl.Word) told {
+		server, words := impl.ServerHear(s, w)
+		return told{server, words}
+	}
+	for slot := range 2 {
+		s, w := withThere()
+		w.Slot = slot
+		checkMemory(t, s, w, hear)
+		checkApart(t, hear(tangled(s), tangledWord(w)))
+	}
+}
+
+// What is of the slot itself goes, so that it is there as it comes, and not as it was.
+func TestParcelsWithWhatGoes(t *testing.T) {
+	s, w := withThere()
+	w.Slot = 0
+	w.Vers[0].Val, w.Waits[0].Val, w.Owes = 4711, 4711, nil
+	x, words := checkHeard(t, s, w)
+	if len(words) != 1 || !sameVer(x.Vers[0], w.Vers[0]) || !sameVer(x.Waits[0], w.Waits[0]) || len(x.Owes) > 0 {
+		t.Error(x, words)
+	}
+}
+
+// What can be seen here and comes as one that waits, or the other way round, would be both: nothing is done.
+func TestParcelsWithWhatIsThereOtherwise(t *testing.T) {
+	s := hearing(2, came(0, 3, 0))
+	s.Waits = []impl.Ver{came(1, 9, 0, dep(5, 8, 1))}
+	seen, waits := bulkTo(s, 1, 2), bulkTo(s, 1, 2)
+	seen.Vers, waits.Waits = s.Waits, s.Vers
+	checkUnheard(t, s, seen)
+	checkUnheard(t, s, waits)
+}
+
+// What comes and is there already counts twice, of each list: it comes, if both together are ChainMax, and not, if they are one more.
+func TestParcelsWithWhatIsThereWhereRoomEnds(t *testing.T) {
+	for more := range 3 {
+		seen, waits, owed := hearing(0), hearing(0), hearing(0)
+		for i := range impl.ChainMax - 2 + more {
+			seen.Vers = append(seen.Vers, came(1, 10+i, 3))
+			waits.Waits = append(waits.Waits, came(1, 10+i, 3, dep(0, 9, 3)))
+			owed.Vers = append(owed.Vers, came(1, 10+i, 0))
+			owed.Owes = append(owed.Owes, dep(1, 10+i, 0))
+		}
+		for i, s := range []impl.Server{seen, waits, owed} {
+			w := bulkTo(s, 2, 7)
+			switch i {
+			case 0:
+				w.Vers = s.Vers[3:4]
+			case 1:
+				w.Waits = s.Waits[3:4]
+			case 2:
+				w.Owes = s.Owes[3:4]
+			}
+			want := emptied(s, 2, impl.Slot{Epoch: 7, Stand: impl.StandOwns})
+			if more == 2 {
+				want = s
+			}
+			if x, words := checkHeard(t, s, w); (len(words) == 1) != (more < 2) || !sameServer(x, want) {
+				t.Error(i, more, x.Slots, words)
+			}
+		}
 	}
 }
 

@@ -15,10 +15,13 @@ type walk struct {
 	radio   []impl.Word
 	puts    [impl.VerClients][]impl.Word
 	seen    [impl.VerClients][]impl.Dep
+	say     func(client int)
+	told    func(client int, word impl.Word)
 }
 
 func newWalk(t *testing.T, number int) *walk {
 	w := &walk{t: t, number: uint32(number)*2654435761 + 1}
+	w.say, w.told = w.asks, w.sees
 	for site := range w.servers {
 		w.servers[site] = impl.ServerStart(site)
 	}
@@ -47,7 +50,11 @@ func (w *walk) bring(place int, doubled bool) {
 		w.send(said...)
 		return
 	}
-	client := word.To - impl.WordClient
+	w.told(word.To-impl.WordClient, word)
+}
+
+// sees: a client takes what it is told as it comes.
+func (w *walk) sees(client int, word impl.Word) {
 	if word.Kind == impl.WordPutOk {
 		w.seen[client] = impl.DepsPut(w.seen[client], impl.Dep{Key: word.Key, Stamp: word.Stamp})
 	}
@@ -79,7 +86,7 @@ func (w *walk) step() {
 	s := &w.servers[site]
 	switch kind := w.below(20); {
 	case kind < 3:
-		w.asks(w.below(impl.VerClients))
+		w.say(w.below(impl.VerClients))
 	case kind < 5:
 		w.send(checkTended(w.t, *s)...)
 	case kind == 5:
