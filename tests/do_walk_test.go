@@ -16,10 +16,11 @@ type drawn struct {
 	could  [impl.NeckMoves + 1]int
 	needed int
 	full   int
+	does   func(t *testing.T, w impl.Neck, e impl.NeckEvent) (impl.Neck, bool)
 }
 
 func newDrawn(t *testing.T, number int) *drawn {
-	return &drawn{walk: newWalk(t, number), now: impl.NeckStart()}
+	return &drawn{walk: newWalk(t, number), now: impl.NeckStart(), does: checkDone}
 }
 
 // kind is which kind of event is drawn for a client, so many of a hundred being brought: a call begins mostly when none waits.
@@ -70,7 +71,7 @@ func (d *drawn) draw(brought int) impl.NeckEvent {
 // goesOn lets something happen, and asks what holds of each world from the start on.
 func (d *drawn) goesOn(e impl.NeckEvent) {
 	d.t.Helper()
-	x, done := checkDone(d.t, d.now, e)
+	x, done := d.does(d.t, d.now, e)
 	if done {
 		d.could[e.Kind]++
 	}
@@ -156,14 +157,22 @@ func pairsOf(w impl.Neck, kind int) int {
 func walked(t *testing.T, number int, events int) *drawn {
 	t.Helper()
 	d := newDrawn(t, number)
+	d.goesFar(events, func(impl.NeckEvent) bool { return true })
+	return d
+}
+
+// goesFar lets so many drawn events happen, but for those that may not.
+func (d *drawn) goesFar(events int, may func(e impl.NeckEvent) bool) {
+	d.t.Helper()
 	brought := 0
 	for i := range events {
 		if i%40 == 0 {
 			brought = []int{75, 65, 55, 45, 15}[d.below(5)]
 		}
-		d.goesOn(d.draw(brought))
+		if e := d.draw(brought); may(e) {
+			d.goesOn(e)
+		}
 	}
-	return d
 }
 
 // bringAll brings all words that are wanted, in any order, some of them twice.
@@ -249,41 +258,45 @@ func (sum *tally) add(d *drawn) {
 	sum.reads, sum.puts = sum.reads+pairsOf(d.now, impl.CallRead), sum.puts+pairsOf(d.now, impl.CallPut)
 }
 
-// Promises 68, and 70 to 80, of worlds that drawn events have led to: words are lost, doubled, late and out of turn, and find no room,
-// servers fall and rise, slots move at any time, calls are sent again and given up.
-func TestWhateverHappens(t *testing.T) {
-	for part := range 8 {
+// inParts walks in so many parts at once.
+func inParts(t *testing.T, parts int, walks func(t *testing.T, part int)) {
+	for part := range parts {
 		t.Run(strconv.Itoa(part), func(t *testing.T) {
 			t.Parallel()
-			sum := tally{}
-			for number := range 20 {
-				sum.add(walked(t, 20*part+number, 900))
-			}
-			if slices.Min(sum.could[impl.NeckBegins:]) < 40 || sum.full < 500 || sum.reads < 15 || sum.puts < 100 {
-				t.Error("too little happened", sum)
-			}
+			walks(t, part)
 		})
 	}
 }
 
+// Promises 68, and 70 to 80, of worlds that drawn events have led to: words are lost, doubled, late and out of turn, and find no room,
+// servers fall and rise, slots move at any time, calls are sent again and given up.
+func TestWhateverHappens(t *testing.T) {
+	inParts(t, 8, func(t *testing.T, part int) {
+		sum := tally{}
+		for number := range 20 {
+			sum.add(walked(t, 20*part+number, 900))
+		}
+		if slices.Min(sum.could[impl.NeckBegins:]) < 40 || sum.full < 500 || sum.reads < 15 || sum.puts < 100 {
+			t.Error("too little happened", sum)
+		}
+	})
+}
+
 // Promises 76 to 78, of reads that take long, so that some of what they read is newer than the rest, and that is asked for once more.
 func TestReadsThatTakeLong(t *testing.T) {
-	for part := range 4 {
-		t.Run(strconv.Itoa(part), func(t *testing.T) {
-			t.Parallel()
-			sum := tally{}
-			for number := range 15 {
-				d := newDrawn(t, 15*part+number)
-				for i := range 6 {
-					d.readsSlowly((i + number) % impl.VerClients)
-				}
-				sum.add(d)
+	inParts(t, 4, func(t *testing.T, part int) {
+		sum := tally{}
+		for number := range 15 {
+			d := newDrawn(t, 15*part+number)
+			for i := range 6 {
+				d.readsSlowly((i + number) % impl.VerClients)
 			}
-			if sum.needed < 10 || sum.reads < 40 || sum.puts < 500 {
-				t.Error("too little happened", sum)
-			}
-		})
-	}
+			sum.add(d)
+		}
+		if sum.needed < 10 || sum.reads < 40 || sum.puts < 500 {
+			t.Error("too little happened", sum)
+		}
+	})
 }
 
 // drawnNecks has worlds that drawn events have led to, early and late ones, at rest and crowded.

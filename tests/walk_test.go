@@ -119,16 +119,20 @@ func (w *walk) calm() {
 	}
 }
 
-// side is all that can be seen on a side.
-func (w *walk) side(side int) []impl.Ver {
+// sideBy is all that can be seen on a side, in order, each version once, as the first server has it, without the program's chapter 43.
+func sideBy(servers []impl.Server, side int) []impl.Ver {
 	var all []impl.Ver
-	for _, v := range slices.Concat(w.servers[2*side].Vers, w.servers[2*side+1].Vers) {
+	for _, v := range slices.Concat(servers[2*side].Vers, servers[2*side+1].Vers) {
 		if !hasName(all, nameOf(v)) {
 			all = append(all, v)
 		}
 	}
 	slices.SortFunc(all, verOrder)
 	return all
+}
+
+func (w *walk) side(side int) []impl.Ver {
+	return sideBy(w.servers[:], side)
 }
 
 // checkSides: all that a version came of can be seen where it can, and no two are of one call.
