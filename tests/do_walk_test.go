@@ -303,7 +303,8 @@ func TestReadsThatTakeLong(t *testing.T) {
 func drawnNecks(t *testing.T, n int) []impl.Neck {
 	var list []impl.Neck
 	for number := range n {
-		d := walked(t, 1000+number, 60+70*(number%10))
+		d := unwatched(t, 1000+number)
+		d.goesFar(60+70*(number%10), anyEvent)
 		list = append(list, d.now)
 	}
 	return list

@@ -133,14 +133,20 @@ func (o *watcher) checkWritten(t *testing.T, w impl.Neck, c impl.Call, side []im
 			continue
 		}
 		o.saw.read++
-		v := a.Ver
-		writes := func(other impl.Call) bool {
-			return other.Client == v.Client && other.Num == v.Call && other.Kind == impl.CallPut && other.Keys[0] == v.Key && other.Val == v.Val && slices.Equal(other.Ctx, v.Deps)
-		}
-		if !justSo(side, v) || !slices.ContainsFunc(w.Calls, writes) {
+		if !justSo(side, a.Ver) || !wasCalledFor(w, a.Ver) {
 			t.Fatalf("promise 90: %+v %+v", c, w)
 		}
 	}
+}
+
+// writes says whether a call is the put that made a version, or would make it.
+func writes(c impl.Call, v impl.Ver) bool {
+	return c.Client == v.Client && c.Num == v.Call && c.Kind == impl.CallPut && c.Keys[0] == v.Key && c.Val == v.Val && slices.Equal(c.Ctx, v.Deps)
+}
+
+// wasCalledFor says whether a version was made by one of the calls.
+func wasCalledFor(w impl.Neck, v impl.Ver) bool {
+	return slices.ContainsFunc(w.Calls, func(c impl.Call) bool { return writes(c, v) })
 }
 
 // checkBehindReads, promise 91: a version came of all that its client had read ahead of its call, and of what that came of.
